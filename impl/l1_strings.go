@@ -1,0 +1,158 @@
+package impl
+
+import (
+	"iter"
+	"strconv"
+	"strings"
+)
+
+const MaxString = 4000
+const MaxDecimal = 999999
+
+const (
+	checksumStart   = 7
+	checksumFactor  = 41
+	checksumModulus = 999979
+	checksumMark    = "#"
+)
+
+// FormatInt returns the decimal representation of n and true. If n is outside
+// -MaxDecimal..MaxDecimal it returns the empty string and false. The representation has no
+// leading zeros; a negative number starts with `-`.
+func FormatInt(n int) (string, bool) {
+	if n < -MaxDecimal || n > MaxDecimal {
+		return "", false
+	}
+	return strconv.Itoa(n), true
+}
+
+// ParseInt is the inverse of FormatInt: it returns the integer n for which FormatInt(n) is s,
+// and true. For any other string, including strings with leading zeros, a leading `+`, or `-0`,
+// it returns 0 and false.
+func ParseInt(s string) (int, bool) {
+	n := leadingNumber(s)
+	// Writing the number again rejects at once all that FormatInt never writes.
+	if text, ok := FormatInt(n); !ok || text != s {
+		return 0, false
+	}
+	return n, true
+}
+
+// leadingNumber returns the number that the first bytes of s show. It stops behind the first
+// digit that takes it beyond MaxDecimal, so that no text makes it overflow.
+func leadingNumber(s string) int {
+	n, sign := 0, 1
+digits:
+	for i := range len(s) {
+		switch c := s[i]; {
+		case i == 0 && c == '-':
+			sign = -1
+		case '0' <= c && c <= '9' && n <= MaxDecimal:
+			n = 10*n + int(c-'0')
+		default:
+			break digits
+		}
+	}
+	return sign * n
+}
+
+// SplitString splits s, which must have at most MaxString bytes, at every occurrence of the
+// single-byte separator sep, and returns the substrings between the separators in order, and
+// true. The result has one element more than s has separators, so the empty string yields one
+// empty element. If s is too long or sep does not consist of exactly one byte, it returns an
+// empty slice and false.
+func SplitString(s string, sep string) ([]string, bool) {
+	if len(s) > MaxString || len(sep) != 1 {
+		return []string{}, false
+	}
+	parts := []string{}
+	for part := range partsOf(s, sep[0]) {
+		parts = append(parts, part)
+	}
+	return parts, true
+}
+
+// partsOf yields the substrings of s between the occurrences of sep, in order.
+func partsOf(s string, sep byte) iter.Seq[string] {
+	return func(yield func(string) bool) {
+		rest := s
+		for {
+			at := strings.IndexByte(rest, sep)
+			if at < 0 {
+				yield(rest)
+				return
+			}
+			if !yield(rest[:at]) {
+				return
+			}
+			rest = rest[at+1:]
+		}
+	}
+}
+
+// JoinStrings is the inverse of SplitString: it returns the elements of parts concatenated with
+// sep between consecutive elements, and true. It returns the empty string and false if parts is
+// empty, if sep does not consist of exactly one byte, if an element contains sep, or if the
+// result would have more than MaxString bytes.
+func JoinStrings(parts []string, sep string) (string, bool) {
+	if len(parts) == 0 || len(sep) != 1 {
+		return "", false
+	}
+	size := len(parts) - 1
+	for _, part := range parts {
+		size += len(part)
+		// The size is checked for each part: the sum of all of them could overflow.
+		if size > MaxString || strings.Contains(part, sep) {
+			return "", false
+		}
+	}
+	return strings.Join(parts, sep), true
+}
+
+// LessString reports whether a is lexicographically less than b, comparing byte by byte; a
+// proper prefix is less than the longer string.
+func LessString(a string, b string) bool { return a < b }
+
+// Checksum returns the checksum of s and true. The checksum starts at 7 and is updated for
+// every byte c of s, in order, to (41*h + c + 1) modulo 999979. If s has more than MaxString
+// bytes, it returns 0 and false.
+func Checksum(s string) (int, bool) {
+	if len(s) > MaxString {
+		return 0, false
+	}
+	h := checksumStart
+	for i := range len(s) {
+		h = (checksumFactor*h + int(s[i]) + 1) % checksumModulus
+	}
+	return h, true
+}
+
+// AppendChecksum returns s followed by `#` and the decimal checksum of s, and true. It returns
+// the empty string and false if s contains `#` or if s or the result has more than MaxString
+// bytes.
+func AppendChecksum(s string) (string, bool) {
+	sum, ok := Checksum(s)
+	if !ok || strings.Contains(s, checksumMark) {
+		return "", false
+	}
+	number, ok := FormatInt(sum)
+	if !ok || len(s)+len(checksumMark)+len(number) > MaxString {
+		return "", false
+	}
+	return s + checksumMark + number, true
+}
+
+// VerifyChecksum is the inverse of AppendChecksum: it returns the string t for which
+// AppendChecksum(t) is s, and true. If there is no such string, it returns the empty string and
+// false.
+func VerifyChecksum(s string) (string, bool) {
+	text, _, found := strings.Cut(s, checksumMark)
+	if !found {
+		return "", false
+	}
+	// Only the text before the first mark can be the one: AppendChecksum takes none with a mark.
+	if sealed, ok := AppendChecksum(text); !ok || sealed != s {
+		return "", false
+	}
+	return text, true
+}
