@@ -20,13 +20,18 @@ func repeated(j impl.Job, n int) []impl.Job {
 	return slices.Repeat([]impl.Job{j}, n)
 }
 
-// madeJobs returns n jobs that follow from a number, with Times of at most time, and so on.
-func madeJobs(number, n, time, weight, release, due int) []impl.Job {
+// drawer returns a function that draws numbers, which follow from a number, below a given one.
+func drawer(number int) func(below int) int {
 	state := uint32(number)*2654435761 + 12345
-	next := func(below int) int {
+	return func(below int) int {
 		state = state*1664525 + 1013904223
 		return int(state>>8) % below
 	}
+}
+
+// madeJobs returns n jobs that follow from a number, with Times of at most time, and so on.
+func madeJobs(number, n, time, weight, release, due int) []impl.Job {
+	next := drawer(number)
 	jobs := make([]impl.Job, n)
 	for i := range jobs {
 		jobs[i] = job(1+next(time), next(weight+1), next(release+1), next(due+1))

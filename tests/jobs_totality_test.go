@@ -15,12 +15,17 @@ type answer struct {
 	ok      bool
 }
 
-// answersOfJobs calls each function of chapter 2 that takes numbers or lists.
-func answersOfJobs(jobs []impl.Job, order []int, a, b int) map[string]answer {
+// newAnswers returns no answers yet, and a function that notes one.
+func newAnswers() (map[string]answer, func(name string, ok bool, results ...any)) {
 	answers := map[string]answer{}
-	note := func(name string, ok bool, results ...any) {
+	return answers, func(name string, ok bool, results ...any) {
 		answers[name] = answer{fmt.Sprint(results...), ok}
 	}
+}
+
+// answersOfJobs calls each function of chapter 2 that takes numbers or lists.
+func answersOfJobs(jobs []impl.Job, order []int, a, b int) map[string]answer {
+	answers, note := newAnswers()
 	starts, ok := impl.StartsOf(jobs, order)
 	note("StartsOf", ok, starts)
 	ends, ok := impl.EndsOf(jobs, order)
@@ -60,7 +65,7 @@ func answersOfJobs(jobs []impl.Job, order []int, a, b int) map[string]answer {
 
 // nothing tells whether results are zero values only.
 func nothing(results string) bool {
-	return slices.Contains([]string{"", "0", "false", "[]", "[] 0", "[] []"}, results)
+	return slices.Contains([]string{"", "0", "false", "[]", "[] 0", "[] []", "0 0"}, results)
 }
 
 // caller calls functions of one chapter, and tells by their names what they returned.
@@ -137,6 +142,19 @@ func scribble(list []int) {
 	}
 }
 
+// checkApart writes all over a result and checks that no result before or after it shows it.
+func checkApart(t *testing.T, name string, f func() ([]int, bool)) {
+	t.Helper()
+	one, ok := f()
+	two, fine := f()
+	kept := slices.Clone(two)
+	scribble(one)
+	three, fair := f()
+	if ok != fine || ok != fair || !slices.Equal(two, kept) || !slices.Equal(three, kept) {
+		t.Errorf("%s: a result changed another: %v, %v, %v", name, kept, two, three)
+	}
+}
+
 // TestPromise13ListsOfOrdersAreApart writes all over results and checks that no argument and no later result shows it.
 func TestPromise13ListsOfOrdersAreApart(t *testing.T) {
 	for _, jobs := range append(knownJobs(), madeJobs(8, 8, 9, 9, 20, 40)) {
@@ -156,14 +174,7 @@ func TestPromise13ListsOfOrdersAreApart(t *testing.T) {
 				return impl.InsertJob(order, 0, 0)
 			},
 		} {
-			one, ok := f()
-			two, fine := f()
-			kept := slices.Clone(two)
-			scribble(one)
-			three, fair := f()
-			if ok != fine || ok != fair || !slices.Equal(two, kept) || !slices.Equal(three, kept) {
-				t.Errorf("%s of %v: a result changed another: %v, %v, %v", name, jobs, kept, two, three)
-			}
+			checkApart(t, fmt.Sprintf("%s of %v", name, jobs), f)
 			if !slices.Equal(jobs, keptJobs) || !slices.Equal(order, upTo(len(jobs))) {
 				t.Fatalf("%s of %v: a result changed an argument: %v, %v", name, keptJobs, jobs, order)
 			}

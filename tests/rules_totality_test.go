@@ -11,10 +11,7 @@ import (
 
 // answersOfRules calls each function of chapter 3; what is an order for some of them is a set for OnTime.
 func answersOfRules(jobs []impl.Job, order []int, a, b int) map[string]answer {
-	answers := map[string]answer{}
-	note := func(name string, ok bool, results ...any) {
-		answers[name] = answer{fmt.Sprint(results...), ok}
-	}
+	answers, note := newAnswers()
 	note("IsPlain", impl.IsPlain(jobs))
 	for _, pair := range [][2]int{{b, 0}, {0, b}, {a, b}, {b, b}} {
 		difference, ok := impl.RuleDifference(jobs, a, pair[0], pair[1])
@@ -98,14 +95,7 @@ func TestPromise13ListsOfRulesAreApart(t *testing.T) {
 			"LeftAfter": func() ([]int, bool) { return impl.LeftAfter(jobs, len(jobs)) },
 			"SlacksOf":  func() ([]int, bool) { return impl.SlacksOf(jobs, order, 0) },
 		} {
-			one, ok := f()
-			two, fine := f()
-			kept := slices.Clone(two)
-			scribble(one)
-			three, fair := f()
-			if !ok || !fine || !fair || !slices.Equal(two, kept) || !slices.Equal(three, kept) {
-				t.Errorf("%s of %v: a result changed another: %v, %v, %v", name, jobs, kept, two, three)
-			}
+			checkApart(t, fmt.Sprintf("%s of %v", name, jobs), f)
 			if !slices.Equal(jobs, keptJobs) || !slices.Equal(order, upTo(len(jobs))) {
 				t.Fatalf("%s of %v: a result changed an argument: %v, %v", name, keptJobs, jobs, order)
 			}
