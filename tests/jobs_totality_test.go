@@ -150,7 +150,7 @@ func checkApart(t *testing.T, name string, f func() ([]int, bool)) {
 	kept := slices.Clone(two)
 	scribble(one)
 	three, fair := f()
-	if ok != fine || ok != fair || !slices.Equal(two, kept) || !slices.Equal(three, kept) {
+	if !ok || !fine || !fair || !slices.Equal(two, kept) || !slices.Equal(three, kept) {
 		t.Errorf("%s: a result changed another: %v, %v, %v", name, kept, two, three)
 	}
 }
@@ -174,6 +174,9 @@ func TestPromise13ListsOfOrdersAreApart(t *testing.T) {
 				return impl.InsertJob(order, 0, 0)
 			},
 		} {
+			if _, ok := f(); !ok && len(jobs) == 0 {
+				continue // there is no place to insert a job at
+			}
 			checkApart(t, fmt.Sprintf("%s of %v", name, jobs), f)
 			if !slices.Equal(jobs, keptJobs) || !slices.Equal(order, upTo(len(jobs))) {
 				t.Fatalf("%s of %v: a result changed an argument: %v, %v", name, keptJobs, jobs, order)
