@@ -165,7 +165,11 @@ func endsByHand(jobs []impl.Job, order []int) []int {
 
 // valueByHand is the value of an objective for an order, as the document defines it.
 func valueByHand(jobs []impl.Job, order []int, objective int) int {
-	ends := endsByHand(jobs, order)
+	return valueOfEndsByHand(jobs, endsByHand(jobs, order), objective)
+}
+
+// valueOfEndsByHand is the value of an objective that the ends of the jobs tell.
+func valueOfEndsByHand(jobs []impl.Job, ends []int, objective int) int {
 	greatestEnd, sum, weighted, greatestLateness := 0, 0, 0, math.MinInt
 	tardiness, weightedTardiness, late, lateWeight := 0, 0, 0, 0
 	for i, j := range jobs {
