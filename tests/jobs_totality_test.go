@@ -65,7 +65,7 @@ func answersOfJobs(jobs []impl.Job, order []int, a, b int) map[string]answer {
 
 // nothing tells whether results are zero values only.
 func nothing(results string) bool {
-	return slices.Contains([]string{"", "0", "false", "[]", "[] 0", "[] []", "0 0"}, results)
+	return slices.Contains([]string{"", "0", "false", "[]", "[] 0", "[] []", "0 0", "0 []"}, results)
 }
 
 // caller calls functions of one chapter, and tells by their names what they returned.
